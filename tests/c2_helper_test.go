@@ -100,7 +100,7 @@ func isAmong(list []int, greater []int) bool {
 	return !slices.ContainsFunc(list, func(x int) bool { return !slices.Contains(greater, x) })
 }
 
-// invalidVotes returns lists that are no votes in any space of up to three issues, one vote more than there may be among them.
+// invalidVotes returns lists that are no votes in the space, none and one more than there may be among them.
 func invalidVotes(s impl.Space) [][]int {
 	first := s.All[0]
 	lists := [][]int{nil, {}, slices.Repeat([]int{first}, maxVotes+1), slices.Repeat([]int{first}, 1000)}
