@@ -205,30 +205,16 @@ func SpaceText(s Space) string {
 	if !ValidSpace(s) {
 		return ""
 	}
-	texts := make([]string, len(s.All))
-	for i, x := range s.All {
-		texts[i] = strconv.Itoa(x)
-	}
-	return strconv.Itoa(s.Issues) + ":" + strings.Join(texts, ",")
+	return strconv.Itoa(s.Issues) + ":" + numbersText(s.All)
 }
 
 // ParseSpace returns the space of a text.
 func ParseSpace(s string) (Space, bool) {
 	head, tail, _ := strings.Cut(s, ":")
-	issues, err := strconv.Atoi(head)
-	if err != nil {
-		return Space{}, false
-	}
-	out := Space{Issues: issues}
-	for _, text := range strings.Split(tail, ",") {
-		x, err := strconv.Atoi(text)
-		if err != nil {
-			return Space{}, false
-		}
-		out.All = append(out.All, x)
-	}
-	// Atoi also takes signs and leading zeros, which no text of a space has.
-	if !ValidSpace(out) || SpaceText(out) != s {
+	issues, isNumber := parseNumber(head)
+	all, areNumbers := parseNumbers(tail)
+	out := Space{Issues: issues, All: all}
+	if !isNumber || !areNumbers || !ValidSpace(out) {
 		return Space{}, false
 	}
 	return out, true
@@ -290,6 +276,38 @@ func openAsker(s Space) func(p Part) bool {
 	return func(p Part) bool {
 		return slices.ContainsFunc(s.All, func(x int) bool { return hasPart(x, p) })
 	}
+}
+
+// numbersText returns the numbers in decimal, with a comma between two of them.
+func numbersText(list []int) string {
+	texts := make([]string, len(list))
+	for i, x := range list {
+		texts[i] = strconv.Itoa(x)
+	}
+	return strings.Join(texts, ",")
+}
+
+// parseNumbers returns the numbers, at least one, of which numbersText is the text, and whether there are such.
+func parseNumbers(text string) ([]int, bool) {
+	var list []int
+	for _, part := range strings.Split(text, ",") {
+		x, ok := parseNumber(part)
+		if !ok {
+			return nil, false
+		}
+		list = append(list, x)
+	}
+	return list, true
+}
+
+// parseNumber returns the number that is written so in decimal, and whether there is one.
+func parseNumber(text string) (int, bool) {
+	x, err := strconv.Atoi(text)
+	// Atoi also takes a plus sign and leading zeros, with which no number is written.
+	if err != nil || strconv.Itoa(x) != text {
+		return 0, false
+	}
+	return x, true
 }
 
 // picked returns those of the list that are wanted, in order.
